@@ -16,7 +16,7 @@ type View struct {
 	*sight // nil: it shows nothing
 }
 
-// sight is what all views show that are taken between two Commits: it is read once, for the first of them, and never changed.
+// sight is what views show that are taken between the same two Commits: it is read once, for the first of them, and never changed.
 type sight struct {
 	once sync.Once
 	all  []api.KV // rising
