@@ -41,7 +41,7 @@ func (r *reader) end() api.Errno {
 // parser is a carrier from bytes.
 type parser struct{ reader }
 
-func (p *parser) octet(n *int) { *n = int(p.take(1)[0]) }
+func (p *parser) errno(e *api.Errno) { *e = api.Errno(p.take(1)[0]) }
 
 func (p *parser) num(n *int) {
 	var bits uint64

@@ -6,7 +6,7 @@ import (
 
 // carrier carries fields between a record and its bytes: a parser from the bytes, a writer to them.
 type carrier interface {
-	octet(n *int)
+	errno(e *api.Errno)
 	num(n *int)
 	text(t *string)
 	flag(is bool) bool  // what the bytes say, once it is carried
@@ -96,7 +96,7 @@ func (r records) from(kind int, e *api.Entry, s *api.Statement) {
 		r.num(&e.Id)
 		fallthrough
 	case answer:
-		r.octet((*int)(&e.Answer.Err))
+		r.errno(&e.Answer.Err)
 		r.nums(&e.Answer.Left, &e.Answer.Over, &e.Answer.N)
 		if !r.flag(s.Term != 0) {
 			return

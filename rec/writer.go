@@ -22,7 +22,7 @@ func (w *writer) bytes() []byte {
 
 func (w *writer) refuse(e api.Errno) { w.fault = e }
 
-func (w *writer) octet(n *int) { w.count(*n) }
+func (w *writer) errno(e *api.Errno) { w.count(int(*e)) }
 
 func (w *writer) num(n *int) {
 	for shift := 56; shift >= 0; shift -= 8 {
